@@ -1,12 +1,9 @@
-package whole
+package integer
 
 import (
 	"cmp"
 	"math/bits"
 	"slices"
-	"strings"
-
-	"torus/api"
 )
 
 // A limb is a digit to the base, so that limbs turn into decimal digits one by one.
@@ -15,9 +12,25 @@ const (
 	limbDigits = 9
 )
 
-// A natural is an integer from 0 on: its limbs, the lowest one first, without zeros at the end.
+// Words are numbers that need at most two limbs. So the sum of two words fits in an int64.
+const (
+	wordEnd    = base * base
+	wordDigits = 2 * limbDigits
+)
+
+// A natural is an integer from 0 on. Most of them are short, and machine words are
+// several times faster than limbs.
 type natural struct {
-	limbs []uint64
+	word  uint64   // the number if it is a word, and otherwise 0
+	limbs []uint64 // the limbs of a number that is no word, the lowest one first, without zeros at the end
+}
+
+// of returns n.
+func of(n uint64) natural {
+	if n < wordEnd {
+		return natural{word: n}
+	}
+	return natural{limbs: []uint64{n % base, n / base % base, n / wordEnd}}
 }
 
 // trim returns the number with these limbs, which may end with zeros.
@@ -26,41 +39,67 @@ func trim(limbs []uint64) natural {
 	for n > 0 && limbs[n-1] == 0 {
 		n--
 	}
-	return natural{limbs[:n:n]}
+	switch n {
+	case 0:
+		return natural{}
+	case 1:
+		return natural{word: limbs[0]}
+	case 2:
+		return natural{word: limbs[1]*base + limbs[0]}
+	}
+	return natural{limbs: limbs[:n:n]}
 }
 
-// small returns a number less than base.
-func small(n uint64) natural {
-	return trim([]uint64{n})
+// spread returns the limbs of a, also if it is a word.
+func (a natural) spread() []uint64 {
+	switch {
+	case !a.isWord():
+		return a.limbs
+	case a.word >= base:
+		return []uint64{a.word % base, a.word / base}
+	case a.word > 0:
+		return []uint64{a.word}
+	}
+	return nil
 }
 
 // collect returns the number with these decimal digits.
 func collect(digits string) natural {
 	limbs := make([]uint64, 0, len(digits)/limbDigits+1)
 	for end := len(digits); end > 0; end -= limbDigits {
-		limb := uint64(0)
-		for i := max(0, end-limbDigits); i < end; i++ {
-			limb = limb*10 + uint64(digits[i]-'0')
-		}
-		limbs = append(limbs, limb)
+		limbs = append(limbs, word(digits[max(0, end-limbDigits):end]))
 	}
 	return trim(limbs)
 }
 
-// digits returns the number of decimal digits of a.
-func (a natural) digits() int {
-	n := len(a.limbs)
-	if n == 0 {
-		return 1 // 0 is written, too
+// word returns the number with these decimal digits, of which there are at most wordDigits.
+func word(digits string) uint64 {
+	n := uint64(0)
+	for i := range len(digits) {
+		n = n*10 + uint64(digits[i]-'0')
 	}
-	d := (n - 1) * limbDigits
-	for top := a.limbs[n-1]; top > 0; top /= 10 {
+	return n
+}
+
+// length returns the number of decimal digits of n; 0 has none.
+func length(n uint64) int {
+	d := 0
+	for ; n > 0; n /= 10 {
 		d++
 	}
 	return d
 }
 
-// write writes the decimal digits of a, which fill the text.
+// Digits returns the number of decimal digits of a.
+func (a natural) Digits() int {
+	if a.isWord() {
+		return max(1, length(a.word)) // 0 is written, too
+	}
+	n := len(a.limbs) - 1
+	return n*limbDigits + length(a.limbs[n])
+}
+
+// write writes the decimal digits of an a that is no word; they fill the text.
 func (a natural) write(text []byte) {
 	end := len(text)
 	for _, limb := range a.limbs {
@@ -72,12 +111,12 @@ func (a natural) write(text []byte) {
 		}
 		end = start
 	}
-	if a.isZero() {
-		text[0] = '0'
-	}
 }
 
-func (a natural) isZero() bool { return len(a.limbs) == 0 }
+func (a natural) isWord() bool { return len(a.limbs) == 0 }
+
+// IsZero reports whether a is 0.
+func (a natural) IsZero() bool { return a.isWord() && a.word == 0 }
 
 // compare returns -1, 0 or 1 if a is less than, equal to or greater than b.
 func (a natural) compare(b natural) int {
@@ -89,7 +128,7 @@ func (a natural) compare(b natural) int {
 			return c
 		}
 	}
-	return 0
+	return cmp.Compare(a.word, b.word)
 }
 
 // addTo adds the limbs v to u, which has at least as many, and returns what is left over.
@@ -127,44 +166,61 @@ func takeFrom(u, v []uint64, q uint64) uint64 {
 
 // sum returns a + b.
 func (a natural) sum(b natural) natural {
-	limbs := make([]uint64, max(len(a.limbs), len(b.limbs))+1)
-	copy(limbs, a.limbs)
-	addTo(limbs, b.limbs)
+	if a.isWord() && b.isWord() {
+		return of(a.word + b.word)
+	}
+	x, y := a.spread(), b.spread()
+	limbs := make([]uint64, max(len(x), len(y))+1)
+	copy(limbs, x)
+	addTo(limbs, y)
 	return trim(limbs)
 }
 
 // difference returns a - b for a b of at most a.
 func (a natural) difference(b natural) natural {
+	if a.isWord() {
+		return natural{word: a.word - b.word}
+	}
 	limbs := slices.Clone(a.limbs)
-	takeFrom(limbs, b.limbs, 1)
+	takeFrom(limbs, b.spread(), 1)
 	return trim(limbs)
 }
 
 // product returns a * b.
 func (a natural) product(b natural) natural {
-	limbs := make([]uint64, len(a.limbs)+len(b.limbs))
-	for i, x := range a.limbs {
+	if a.isWord() && b.isWord() {
+		if high, low := bits.Mul64(a.word, b.word); high == 0 {
+			return of(low)
+		}
+	}
+	u, v := a.spread(), b.spread()
+	limbs := make([]uint64, len(u)+len(v))
+	for i, x := range u {
 		carry := uint64(0)
-		for j, y := range b.limbs {
+		for j, y := range v {
 			carry += limbs[i+j] + x*y
 			limbs[i+j] = carry % base
 			carry /= base
 		}
-		limbs[i+len(b.limbs)] = carry
+		limbs[i+len(v)] = carry
 	}
 	return trim(limbs)
 }
 
 // divide returns the quotient and the remainder of a and a b other than 0.
 func (a natural) divide(b natural) (q, r natural) {
-	if a.compare(b) < 0 {
+	switch {
+	case a.compare(b) < 0:
 		return natural{}, a
+	case a.isWord():
+		return natural{word: a.word / b.word}, natural{word: a.word % b.word}
 	}
-	n := len(b.limbs)
+	v := b.spread()
+	n := len(v)
 	rest := append(slices.Clone(a.limbs), 0)
 	quotient := make([]uint64, len(rest)-n)
 	for i := len(quotient) - 1; i >= 0; i-- {
-		quotient[i] = reduce(rest[i:i+n+1:i+n+1], b.limbs)
+		quotient[i] = reduce(rest[i:i+n+1:i+n+1], v)
 	}
 	return trim(quotient), trim(rest)
 }
@@ -195,34 +251,18 @@ func estimate(u, v []uint64) uint64 {
 	return q
 }
 
-// power returns a^n for an n from 0 on, or some number of more than api.MaxDigits
-// digits if a^n has as many.
-func (a natural) power(n int) natural {
-	x := small(1)
-	for i := bits.Len(uint(n)) - 1; i >= 0; i-- {
-		x = x.product(x)
-		if n>>i&1 == 1 {
-			x = x.product(a)
-		}
-		if x.digits() > api.MaxDigits {
-			break // a^n has no fewer digits than x
-		}
+// gcd returns the greatest common divisor of a and b.
+func (a natural) gcd(b natural) natural {
+	e := euclid{a: a, b: b} // s stays 0: only the factors of Bezout need it
+	for !e.b.IsZero() && !(e.a.isWord() && e.b.isWord()) {
+		e.advance()
 	}
-	return x
-}
-
-// root returns the greatest number whose square is at most a.
-func (a natural) root() natural {
-	if a.isZero() {
-		return a // below 1 the search would divide by 0
+	x, y := e.a.word, e.b.word
+	if !e.a.isWord() {
+		return e.a
 	}
-	x := collect("1" + strings.Repeat("0", (a.digits()+1)/2)) // greater than the root
-	for {
-		q, _ := a.divide(x)
-		y, _ := x.sum(q).divide(small(2))
-		if y.compare(x) >= 0 {
-			return x
-		}
-		x = y
+	for y != 0 {
+		x, y = y, x%y
 	}
+	return natural{word: x}
 }

@@ -1,4 +1,4 @@
-package whole
+package integer
 
 // A euclid is a stage of Euclid's algorithm for two numbers m and n, which starts with
 // a = m, b = n, s = 1 and t = 0. Its successive remainders are a and b; a - s m and
@@ -9,12 +9,11 @@ type euclid struct {
 	minus bool
 }
 
-// run ends the algorithm: then a is the greatest common divisor and b is 0.
-func (e *euclid) run() {
-	for !e.b.isZero() {
-		if !e.leap() {
-			e.step()
-		}
+// advance takes one or more steps of the algorithm for a b other than 0. As soon as b
+// is 0, a is the greatest common divisor.
+func (e *euclid) advance() {
+	if !e.leap() {
+		e.step()
 	}
 }
 
@@ -42,12 +41,12 @@ func (e *euclid) leap() bool {
 	return true
 }
 
-// top returns the two highest limbs of a as one number, or the only one.
+// top returns the two highest limbs of a as one number, or a itself if it is a word.
 func (a natural) top() int64 {
-	n := len(a.limbs)
-	if n == 1 {
-		return int64(a.limbs[0])
+	if a.isWord() {
+		return int64(a.word)
 	}
+	n := len(a.limbs)
 	return int64(a.limbs[n-1]*base + a.limbs[n-2])
 }
 
@@ -81,14 +80,15 @@ func (v blend) abs() blend {
 
 // mix returns v.a x + v.b y, which must not be negative.
 func (v blend) mix(x, y natural) natural {
-	limbs := make([]uint64, max(len(x.limbs), len(y.limbs))+2) // as the sum of two products may
+	xs, ys := x.spread(), y.spread()
+	limbs := make([]uint64, max(len(xs), len(ys))+2) // as the sum of two products may
 	carry := int64(0)
 	for i := range limbs {
-		if i < len(x.limbs) {
-			carry += v.a * int64(x.limbs[i])
+		if i < len(xs) {
+			carry += v.a * int64(xs[i])
 		}
-		if i < len(y.limbs) {
-			carry += v.b * int64(y.limbs[i])
+		if i < len(ys) {
+			carry += v.b * int64(ys[i])
 		}
 		n := uint64(carry + base*base) // more than 0, and the same limb
 		limbs[i] = n % base

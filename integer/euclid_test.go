@@ -1,4 +1,4 @@
-package whole
+package integer
 
 import (
 	"math/rand/v2"
@@ -20,16 +20,16 @@ func TestMix(t *testing.T) {
 		for m := range 5 {
 			x, y := filled(n, base-1), filled(m, base-1)
 			for _, v := range []blend{{0, 0}, {1, 0}, {0, 1}, {1, 1}, {base - 1, 0}, {0, base - 1}, {base - 1, 1}, {base - 1, base - 1}} {
-				want := x.product(small(uint64(v.a))).sum(y.product(small(uint64(v.b))))
+				want := x.product(of(uint64(v.a))).sum(y.product(of(uint64(v.b))))
 				if got := v.mix(x, y); got.compare(want) != 0 {
 					t.Errorf("%v of %d and %d limbs is %v; want %v", v, n, m, got, want)
 				}
 			}
-			if got := (blend{base - 1, 1 - base}).mix(x, y); n == m && !got.isZero() {
+			if got := (blend{base - 1, 1 - base}).mix(x, y); n == m && !got.IsZero() {
 				t.Errorf("the difference of equal products of %d limbs is %v", n, got)
 			}
 			if n > m { // the greatest carries of both signs
-				want := x.product(small(base - 1)).difference(y.product(small(base - 1)))
+				want := x.product(of(base - 1)).difference(y.product(of(base - 1)))
 				if got := (blend{base - 1, 1 - base}).mix(x, y); got.compare(want) != 0 {
 					t.Errorf("the difference of products of %d and %d limbs is %v; want %v", n, m, got, want)
 				}
